@@ -1,7 +1,11 @@
 // Package props is layer 1: what is known of a character. See shared/doc/01-props.md.
 package props
 
-import "selvedge/api"
+import (
+	"sort"
+
+	"selvedge/api"
+)
 
 // pair is two characters each of which mirrors the other one.
 type pair struct {
@@ -26,11 +30,12 @@ var pairs = [...]pair{
 
 // Class tells a character's bidi class.
 func Class(r rune) api.Class {
-	if r < 0 || r > lastRune {
-		return api.L
+	spans := classSpans()
+	i := sort.Search(len(spans), func(i int) bool { return r <= spans[i].last })
+	if i < len(spans) && spans[i].first <= r {
+		return spans[i].class
 	}
-	classesOnce.Do(makeClasses)
-	return classes.blocks[classes.blockOf[r/blockSize]][r%blockSize]
+	return api.L
 }
 
 // Bracket tells the closing bracket of a bracket; whether it is an opening one; whether it is one.
