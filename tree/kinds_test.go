@@ -12,9 +12,7 @@ func TestKindOfEachElement(t *testing.T) { // P5.1
 	counts := [9]int{0, 12, 1, 1, 6, 17, 1, 2, 1}
 	var told [9]int
 	for name, kind := range chapterKinds {
-		if got := tree.Kind(name); got != kind {
-			t.Errorf("Kind(%q) is %d, not %d", name, got, kind)
-		}
+		checkKind(t, name)
 		told[kind]++
 	}
 	if told != counts {
@@ -22,18 +20,21 @@ func TestKindOfEachElement(t *testing.T) { // P5.1
 	}
 }
 
+// checkKind holds Kind and the map against the chapter's table, and so against each other.
 func checkKind(t *testing.T, name string) {
 	t.Helper()
-	if got := tree.Kind(name); got != chapterKinds[name] {
-		t.Errorf("Kind(%q) is %d, not %d", name, got, chapterKinds[name])
+	want := chapterKinds[name]
+	if got := tree.Kind(name); got != want {
+		t.Errorf("Kind(%q) is %d, not %d", name, got, want)
+	}
+	if got := tree.KindByMap(name); got != want {
+		t.Errorf("KindByMap(%q) is %d, not %d", name, got, want)
 	}
 }
 
 func TestNamesOfNone(t *testing.T) { // P5.1
 	for _, name := range strings.Fields("html head body title table tr td th tbody thead script style template img input button form label select option textarea pre address main2 dl dt dd hgroup figcaption details summary dialog fieldset del ins kbd samp var tt big font center strike ruby rt rp iframe object embed svg math video audio canvas area base col link meta param source track h0 h7 h10 h h11 dfn time data menu search slot noscript document # #text * é ß") {
-		if got := tree.Kind(name); got != 0 {
-			t.Errorf("Kind(%q) is %d", name, got)
-		}
+		checkKind(t, name)
 	}
 	for _, name := range []string{"", " ", "\x00", "\xFF", "\u212A", strings.Repeat("p", 1<<20), "p p"} {
 		checkKind(t, name)
