@@ -29,7 +29,7 @@ var (
 	lines = strings.NewReplacer("\r\n", "\n", "\r", "\n", "\f", "\n", "\x00", "\uFFFD")
 
 	commentPattern = regexp.MustCompile(`^` + comments + `+`)
-	whitePattern   = regexp.MustCompile(`^[\t\n ](?:[\t\n ]|` + comments + `)*`)
+	whitePattern   = regexp.MustCompile(`^[\t\n ]+`)
 	quotedPattern  = regexp.MustCompile(`^(?:"(?:[^"\n\\]|\\\n|` + escape + `)*|'(?:[^'\n\\]|\\\n|` + escape + `)*)`)
 	hashPattern    = regexp.MustCompile(`^#(?:` + nameCharacter + `|` + escape + `)+`)
 	numberPattern  = regexp.MustCompile(`^[+-]?(?:[0-9]+(?:\.[0-9]+)?|\.[0-9]+)(?:[eE][+-]?[0-9]+)?`)

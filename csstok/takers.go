@@ -27,14 +27,13 @@ func (r *reader) next() Token {
 	return Token{Kind: Delim, Value: utf.String(r.take(1))}
 }
 
-// white goes on behind comments: two tokens of White, one behind the other, would be printed as what is read as one.
+// white ends at a comment, which is no White: what is behind that is a token of its own.
 func (r *reader) white() (Token, bool) {
 	if !isWhite(r.at(0)) {
 		return Token{}, false
 	}
 	for isWhite(r.at(0)) {
 		r.take(1)
-		r.passComments()
 	}
 	return Token{Kind: White}, true
 }

@@ -212,19 +212,29 @@ func TestComments(t *testing.T) { // P7.1
 	})
 }
 
-func TestCommentsAmidWhite(t *testing.T) { // P7.1, P7.4: else what is printed would be read as one token fewer
-	for _, s := range []string{" /**/ ", " /**//**/ ", "\n/* a */\t/* b */ ", " /**/ /*", " /**/ /**/"} {
-		checkTokens(t, s, white)
-		checkTokens(t, "a"+s, ident("a"), white)
-		checkTokens(t, "\"a\n"+s, bad("a"), white)
+func TestCommentsAmidWhite(t *testing.T) { // P7.1: a comment is no White
+	for _, x := range []reading{
+		{" /**/ ", row(white, white)}, {" /**/\t", row(white, white)}, {"\n/**/\r\n", row(white, white)}, {" /**//**/ ", row(white, white)}, {" \t/* a *//* b */ \f", row(white, white)}, {"/**/ /**/ /**/", row(white, white)},
+		{"\n/* a */\t/* b */ ", row(white, white, white)}, {" /**/ /**/ ", row(white, white, white)}, {" /**/ /*", row(white, white)}, {" /* ", row(white)}, {" /**/", row(white)}, {"/**/ ", row(white)}, {" /*/ */ ", row(white, white)},
+	} {
+		checkTokens(t, x.s, x.want...)
+		checkTokens(t, "a"+x.s, append(row(ident("a")), x.want...)...)
+		checkTokens(t, "\\41 "+x.s, append(row(ident("A")), x.want...)...)
+		checkTokens(t, "\"a\n/**/"+x.s, append(row(bad("a"), white), x.want...)...)
+		checkTokens(t, "\\\n/**/"+x.s, append(row(delim("\\"), white), x.want...)...)
+		if x.s != " /* " && x.s != " /**/ /*" { // whose last comment takes all
+			checkTokens(t, x.s+"b", append(x.want, ident("b"))...)
+		}
 	}
-	checkTokens(t, "a /* b */ c", ident("a"), white, ident("c"))
+	checkTokens(t, "a /* b */ c", ident("a"), white, white, ident("c"))
+	checkTokens(t, "a /* b */c", ident("a"), white, ident("c"))
+	checkTokens(t, "a/* b */ c", ident("a"), white, ident("c"))
 }
 
 func TestCommentsBetweenAllTokens(t *testing.T) { // P7.1
 	for _, x := range samples {
 		for _, y := range samples {
-			if x.endsLine() || x.t == white && y.t == white {
+			if x.endsLine() {
 				continue
 			}
 			s, want := x.s+"/**/"+y.s, row(x.t, y.t)

@@ -74,12 +74,17 @@ func checkReadings(t *testing.T, l []reading) {
 	}
 }
 
+// whiteInOne tells tokens with White in one that stands in a row: it is printed as blanks, of which no reader tells where a comment was.
+func whiteInOne(l []csstok.Token) []csstok.Token {
+	return slices.CompactFunc(slices.Clone(l), func(x, y csstok.Token) bool { return x == white && y == white })
+}
+
 // checkReadAgain asks for what follows: what is printed of a text's tokens is read as these, and none is empty.
 func checkReadAgain(t *testing.T, s string, l []csstok.Token) {
 	t.Helper()
 	printed := csstok.Print(l)
-	if again := csstok.Tokens(printed); !slices.Equal(again, l) {
-		t.Errorf("%.200q: printed %.200q, it is read as %s, not %s", s, printed, show(again...), show(l...))
+	if again := csstok.Tokens(printed); !slices.Equal(again, whiteInOne(l)) {
+		t.Errorf("%.200q: printed %.200q, it is read as %s, not %s", s, printed, show(again...), show(whiteInOne(l)...))
 	}
 	for i, x := range l {
 		switch x.Kind {
